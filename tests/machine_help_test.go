@@ -95,3 +95,13 @@ func (n *numbers) next() uint32 {
 func (n *numbers) below(limit int) int {
 	return int(n.next() % uint32(limit))
 }
+
+// shuffled is the list in another order, in new memory.
+func shuffled[T any](n *numbers, list []T) []T {
+	out := slices.Clone(list)
+	for i := range out {
+		j := i + n.below(len(out)-i)
+		out[i], out[j] = out[j], out[i]
+	}
+	return out
+}

@@ -270,3 +270,39 @@ func wantSmall(t *testing.T, name string, given, want []impl.Rule) {
 		t.Errorf("%s: %v, want %v", name, got, want)
 	}
 }
+
+// wantOwnLists writes into every list of the policy, up to its capacity, and looks whether another list has it. It
+// answers the number of rules that there were.
+func wantOwnLists(t *testing.T, p impl.Policy) int {
+	t.Helper()
+	var lists [][]impl.Con
+	for i, e := range p.Entries {
+		for _, r := range e.Rules {
+			lists = append(lists, r.Cons[:cap(r.Cons)])
+		}
+		full := e.Rules[:cap(e.Rules)]
+		for j := range full {
+			full[j] = impl.Rule{Cons: []impl.Con{pointCon(uint64(i))}}
+		}
+	}
+	for i, e := range p.Entries {
+		for _, r := range e.Rules {
+			if len(r.Cons) != 1 || r.Cons[0].B != uint64(i) {
+				t.Errorf("the rules of entry %d are written through another list", i)
+			}
+		}
+	}
+	for i, list := range lists {
+		for j := range list {
+			list[j] = pointCon(uint64(i))
+		}
+	}
+	for i, list := range lists {
+		for _, c := range list {
+			if c.B != uint64(i) {
+				t.Errorf("list %d is written through another list", i)
+			}
+		}
+	}
+	return len(lists)
+}

@@ -330,37 +330,9 @@ func TestMinimiseNewMemory(t *testing.T) {
 	)
 	before := copyPolicy(p)
 	small := impl.Minimise(p)
-	var lists [][]impl.Con
-	for i, e := range small.Entries {
-		for _, r := range e.Rules {
-			lists = append(lists, r.Cons[:cap(r.Cons)])
-		}
-		full := e.Rules[:cap(e.Rules)]
-		for j := range full {
-			full[j] = impl.Rule{Cons: []impl.Con{pointCon(uint64(i))}}
-		}
-	}
-	for i, e := range small.Entries {
-		for _, r := range e.Rules {
-			if len(r.Cons) != 1 || r.Cons[0].B != uint64(i) {
-				t.Errorf("the rules of entry %d are written through another list", i)
-			}
-		}
-	}
-	for i, list := range lists {
-		for j := range list {
-			list[j] = pointCon(uint64(i))
-		}
-	}
-	for i, list := range lists {
-		for _, c := range list {
-			if c.B != uint64(i) {
-				t.Errorf("list %d is written through another list", i)
-			}
-		}
-	}
-	if len(lists) != 6 {
-		t.Errorf("%d rules", len(lists))
+	count := wantOwnLists(t, small)
+	if count != 6 {
+		t.Errorf("%d rules", count)
 	}
 	if !samePolicy(p, before) {
 		t.Errorf("the answer shares memory with the argument")

@@ -67,15 +67,6 @@ func randomArgs(n *numbers, rules []impl.Rule) []uint64 {
 	return out
 }
 
-func shuffled(n *numbers, rules []impl.Rule) []impl.Rule {
-	out := copyRules(rules)
-	for i := range out {
-		j := i + n.below(len(out)-i)
-		out[i], out[j] = out[j], out[i]
-	}
-	return out
-}
-
 // P8: the answer is the one that the document's steps give.
 func TestMinimiseRandom(t *testing.T) {
 	n := &numbers{state: 74}
