@@ -18,6 +18,22 @@ func knobs(exact, split, form int) impl.Knobs {
 	return impl.Knobs{Exact: exact, Split: split, Form: form}
 }
 
+// wrongKnobs are beyond their bounds, each for itself and all together.
+func wrongKnobs() []impl.Knobs {
+	out := []impl.Knobs{
+		knobs(-1, -1, -1), knobs(impl.MaxExact+1, impl.MaxSplit+1, 3),
+	}
+	for _, form := range learnForms {
+		for _, n := range []int{-1, 201, 1000, -1 << 63, 1<<63 - 1} {
+			out = append(out, knobs(n, 0, form), knobs(n, impl.MaxSplit, form), knobs(0, n, form), knobs(impl.MaxExact, n, form))
+		}
+	}
+	for _, form := range wrongForms {
+		out = append(out, knobs(0, 0, form), knobs(impl.MaxExact, impl.MaxSplit, form))
+	}
+	return out
+}
+
 func values(list ...uint64) []uint64 {
 	return list
 }

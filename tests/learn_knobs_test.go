@@ -22,18 +22,7 @@ func TestLearnKnobsAtBounds(t *testing.T) {
 
 // P10, 4.2: knobs beyond their bounds, each for itself and all together.
 func TestLearnKnobsNotValid(t *testing.T) {
-	wrong := []impl.Knobs{
-		knobs(-1, -1, -1), knobs(impl.MaxExact+1, impl.MaxSplit+1, 3),
-	}
-	for _, form := range learnForms {
-		for _, n := range []int{-1, 201, 1000, -1 << 63, 1<<63 - 1} {
-			wrong = append(wrong, knobs(n, 0, form), knobs(n, impl.MaxSplit, form), knobs(0, n, form), knobs(impl.MaxExact, n, form))
-		}
-	}
-	for _, form := range wrongForms {
-		wrong = append(wrong, knobs(0, 0, form), knobs(impl.MaxExact, impl.MaxSplit, form))
-	}
-	for _, k := range wrong {
+	for _, k := range wrongKnobs() {
 		wantNotLearned(t, "no calls", nil, k)
 		wantNotLearned(t, "one call", oneCalls(values(5, 6)), k)
 		wantNotLearned(t, "a call that is not valid", []impl.Call{call(1, 1)}, k)

@@ -112,6 +112,30 @@ func TestLearnPromises(t *testing.T) {
 	}
 }
 
+// callNear is one of the calls with another argument, and at times with another Nr.
+func callNear(n *numbers, calls []impl.Call) impl.Call {
+	c := copyCalls(calls)[n.below(len(calls))]
+	i := n.below(6)
+	c.Args[i] = calls[n.below(len(calls))].Args[i] + uint64(n.below(5)) - 2
+	c.Nr += uint32(n.below(6) / 5)
+	return c
+}
+
+// isCovered says whether the Arch and Nr are logged together, and each argument lies within what is logged at its index.
+func isCovered(calls []impl.Call, c impl.Call) bool {
+	logged := ofEntry(calls, entry(c.Arch, c.Nr))
+	if len(logged) == 0 {
+		return false
+	}
+	for i, v := range c.Args {
+		list := argsAt(logged, i)
+		if !conHolds(refMaskCover(list), v) && !conHolds(refRangeCover(list), v) {
+			return false
+		}
+	}
+	return true
+}
+
 // P10: calls beside the logged ones are allowed within the stated bounds alone.
 func TestLearnAllowsNoOther(t *testing.T) {
 	n := &numbers{state: 107}
@@ -123,23 +147,13 @@ func TestLearnAllowsNoOther(t *testing.T) {
 			if len(calls) == 0 {
 				break
 			}
-			c := copyCalls(calls)[n.below(len(calls))]
-			i := n.below(6)
-			c.Args[i] = calls[n.below(len(calls))].Args[i] + uint64(n.below(5)) - 2
-			c.Nr += uint32(n.below(6) / 5)
+			c := callNear(n, calls)
 			if !impl.Allows(p, c) {
 				continue
 			}
 			allowed++
-			logged := ofEntry(calls, entry(c.Arch, c.Nr))
-			if len(logged) == 0 {
-				t.Fatalf("%x allows %x, no Arch and Nr of %x", p, c, calls)
-			}
-			for j, v := range c.Args {
-				list := argsAt(logged, j)
-				if !conHolds(refMaskCover(list), v) && !conHolds(refRangeCover(list), v) {
-					t.Fatalf("%x allows %x: index %d is beside %x", p, c, j, list)
-				}
+			if !isCovered(calls, c) {
+				t.Fatalf("%x allows %x, which %x do not cover", p, c, calls)
 			}
 		}
 	}
